@@ -3,6 +3,7 @@ package tests
 import (
 	"math"
 	"slices"
+	"strconv"
 	"testing"
 
 	"loop.example/g02081/impl"
@@ -40,7 +41,7 @@ func checkNoGraph(t *testing.T, what string, got impl.Graph, ok bool) {
 func checkParse(t *testing.T, s string, want impl.Graph, wantOk bool) {
 	t.Helper()
 	g, ok := impl.ParseGraph(s)
-	checkGraph(t, "ParseGraph of "+s, g, ok, want, wantOk)
+	checkGraph(t, "ParseGraph of "+strconv.Quote(s), g, ok, want, wantOk)
 }
 
 func TestIsGraphAcceptsGraphs(t *testing.T) {
